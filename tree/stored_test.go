@@ -7,7 +7,7 @@ import (
 	"entrust/api"
 )
 
-// storesItsNodes fails if a tree doesn't store exactly the nodes that aren't empty, which are those above its leaves.
+// storesItsNodes fails if a tree doesn't store exactly its leaves and the nodes above them, or if one of these is empty, which none is of the leaves here.
 func storesItsNodes(t *testing.T, tr *Tree, indices map[uint64]bool) {
 	t.Helper()
 	for level, nodes := range tr.levels {
