@@ -115,13 +115,17 @@ func TestSignNoOrder(t *testing.T) {
 	}
 }
 
-// TestSignEpochs is P13.1: ErrRange for epochs that aren't a ticket's, whatever the order is; Put and Check have the same error.
+// TestSignEpochs is P13.1: ErrRange for epochs that aren't a ticket's, whatever the order is, but ErrForm for a write whose blocks would be of no epoch, since it is no order; Put and Check have the same error.
 func TestSignEpochs(t *testing.T) {
 	rnd := rand.New(rand.NewSource(13))
 	key := randomKey(rnd)
 	for _, at := range noEpochPairs() {
 		for _, o := range fewOrders(rnd, at[1]) {
-			noTicket(t, api.ErrRange, key, at[0], at[1], o)
+			want := api.ErrRange
+			if o.Kind == ticket.Write && slices.Contains(noEpochs(), at[1]) {
+				want = api.ErrForm
+			}
+			noTicket(t, want, key, at[0], at[1], o)
 		}
 	}
 }
@@ -138,6 +142,37 @@ func TestSignOtherEpoch(t *testing.T) {
 					noTicket(t, api.ErrForm, key, prev, epoch, writeOf(rnd, other, list))
 				}
 			}
+		}
+	}
+}
+
+// TestBlockEpochs is P13.1: blocks of the least epoch and of the greatest one make an order to write, and those of the numbers just outside make none, whichever call is asked; an order without blocks, for which such a number is a ticket's alone, stays one.
+func TestBlockEpochs(t *testing.T) {
+	rnd := rand.New(rand.NewSource(7))
+	key := randomKey(rnd)
+	for _, list := range lists(rnd) {
+		for _, epoch := range []uint64{1, lastEpoch} {
+			o := writeOf(rnd, epoch, list)
+			if !ticket.Right(o) || !ticket.Fits(o, 1<<32) || len(mustLeaves(t, o)) != len(list) {
+				t.Errorf("%d indices, epoch %d: no order", len(list), epoch)
+			}
+			x := mustSign(t, key, epoch-1, epoch, o)
+			if err := ticket.Check(key, x); err != nil || !bytes.Equal(mustPut(t, x), definedBytes(x)) {
+				t.Errorf("%d indices, epoch %d: %v", len(list), epoch, err)
+			}
+		}
+		for _, epoch := range noEpochs() {
+			o := writeOf(rnd, epoch, list)
+			if ticket.Right(o) || ticket.Fits(o, 1<<32) {
+				t.Errorf("%d indices, epoch %d: an order", len(list), epoch)
+			}
+			if leaves, err := ticket.Leaves(o); err != api.ErrForm || len(leaves) != 0 {
+				t.Errorf("%d indices, epoch %d: %x and %v", len(list), epoch, leaves, err)
+			}
+			noTicket(t, api.ErrForm, key, 0, epoch, o)
+			noTicket(t, api.ErrForm, key, 0, 1, o)
+			noTicket(t, api.ErrRange, key, 0, epoch, trimOf(list))
+			noTicket(t, api.ErrRange, key, 0, epoch, resizeTo(list[0]+1))
 		}
 	}
 }

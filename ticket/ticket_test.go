@@ -162,7 +162,12 @@ func foreign(rnd *rand.Rand, epoch uint64) []ticket.Order {
 	return out
 }
 
-// badSealed is orders to write whose sealed blocks are too few, too many, or not of one epoch.
+// noEpochs is numbers in which nothing is sealed.
+func noEpochs() []uint64 {
+	return []uint64{0, math.MaxUint64}
+}
+
+// badSealed is orders to write whose sealed blocks are too few, too many, not of one epoch, or of a number that is none.
 func badSealed(rnd *rand.Rand, epoch uint64) []ticket.Order {
 	var out []ticket.Order
 	for _, list := range lists(rnd) {
@@ -170,6 +175,9 @@ func badSealed(rnd *rand.Rand, epoch uint64) []ticket.Order {
 		out = append(out, changed(good, func(o *ticket.Order) { o.Sealed = nil }), changed(good, func(o *ticket.Order) { o.Sealed = o.Sealed[1:] }))
 		out = append(out, changed(good, func(o *ticket.Order) { o.Sealed = append(o.Sealed, randomSealed(rnd, epoch)) }))
 		out = append(out, changed(good, func(o *ticket.Order) { o.Sealed = append(o.Sealed, o.Sealed...) }))
+		for _, none := range noEpochs() {
+			out = append(out, writeOf(rnd, none, list))
+		}
 		for _, i := range []int{0, len(list) / 2, len(list) - 1} {
 			for _, other := range []uint64{epoch + 1, epoch - 1, epoch ^ 1<<63} {
 				if len(list) > 1 {
@@ -181,7 +189,7 @@ func badSealed(rnd *rand.Rand, epoch uint64) []ticket.Order {
 	return out
 }
 
-// noOrders is what isn't an order, by one fault each, though its sealed blocks are of an epoch.
+// noOrders is what isn't an order, by one fault each; where that isn't its sealed blocks' epoch, they are of the one asked for.
 func noOrders(rnd *rand.Rand, epoch uint64) []ticket.Order {
 	out := append(foreign(rnd, epoch), badSealed(rnd, epoch)...)
 	for _, list := range noLists(rnd) {
@@ -219,7 +227,7 @@ func isOrder(o ticket.Order) bool {
 	}
 	oneEpoch := true
 	for _, x := range o.Sealed {
-		oneEpoch = oneEpoch && x.Epoch == o.Sealed[0].Epoch
+		oneEpoch = oneEpoch && x.Epoch == o.Sealed[0].Epoch && x.Epoch != 0 && x.Epoch != math.MaxUint64
 	}
 	switch o.Kind {
 	case 1:
@@ -320,7 +328,7 @@ func TestKinds(t *testing.T) {
 	}
 }
 
-// TestRight is P13.1: orders of each kind, with as few indices and blocks as there may be, and as many; their sealed blocks are of one epoch, whichever it is.
+// TestRight is P13.1: orders of each kind, with as few indices and blocks as there may be, and as many; their sealed blocks are of one epoch, whichever it is of those that there are.
 func TestRight(t *testing.T) {
 	rnd := rand.New(rand.NewSource(1))
 	for _, epoch := range []uint64{1, 2, 1 << 40, lastEpoch} {
@@ -332,7 +340,7 @@ func TestRight(t *testing.T) {
 	}
 }
 
-// TestNotRight is P13.1: what isn't an order: indices too few or too many, too great, alike or falling, sealed blocks too few or too many or of two epochs, numbers of blocks just outside, fields of another kind, and kinds that are none.
+// TestNotRight is P13.1: what isn't an order: indices too few or too many, too great, alike or falling, sealed blocks too few or too many, of two epochs or of none, numbers of blocks just outside, fields of another kind, and kinds that are none.
 func TestNotRight(t *testing.T) {
 	rnd := rand.New(rand.NewSource(2))
 	for _, epoch := range []uint64{1, 2, 1 << 40, lastEpoch} {
@@ -375,7 +383,7 @@ func TestRightAny(t *testing.T) {
 	rnd := rand.New(rand.NewSource(4))
 	right := 0
 	for range 200000 {
-		o := anyOrder(rnd, uint64(rnd.Intn(2)))
+		o := anyOrder(rnd, []uint64{0, 1, 2, lastEpoch, math.MaxUint64}[rnd.Intn(5)])
 		if ticket.Right(o) != isOrder(o) {
 			t.Fatalf("%x: %v", o, ticket.Right(o))
 		}
